@@ -13,6 +13,11 @@ const big31 = api.MaxRatio
 
 type binary = func(a, b api.Ratio) (api.Ratio, api.Errno)
 
+type operation struct {
+	f     binary
+	exact func(z, a, b *big.Rat) *big.Rat
+}
+
 func r(num, den int64) api.Ratio { return api.Ratio{Num: num, Den: den} }
 
 // invalid returns ratios that break one rule of the definition each, and some that break several.
@@ -76,14 +81,8 @@ func expected(x *big.Rat) (api.Ratio, api.Errno) {
 }
 
 // operations returns the functions of P1.2 with two arguments, each with what it computes.
-func operations() map[string]struct {
-	f     binary
-	exact func(z, a, b *big.Rat) *big.Rat
-} {
-	return map[string]struct {
-		f     binary
-		exact func(z, a, b *big.Rat) *big.Rat
-	}{
+func operations() map[string]operation {
+	return map[string]operation{
 		"Add": {Add, (*big.Rat).Add},
 		"Sub": {Sub, (*big.Rat).Sub},
 		"Mul": {Mul, (*big.Rat).Mul},
