@@ -5,6 +5,7 @@ import (
 	"strings"
 
 	"foliot/api"
+	"foliot/syntax"
 )
 
 // printer writes canonical texts of what Check has found to be well-formed and small.
@@ -18,11 +19,11 @@ func newPrinter() *printer {
 	p := &printer{
 		signs: map[int]string{api.ExNeg: "-", api.ExNot: "!"},
 		ranks: map[int]int{
-			api.ExIf: rankIf, api.ExNeg: rankUnary, api.ExNot: rankUnary,
-			api.ExInt: rankPrimary, api.ExName: rankPrimary, api.ExCall: rankPrimary,
+			api.ExIf: syntax.RankIf, api.ExNeg: syntax.RankUnary, api.ExNot: syntax.RankUnary,
+			api.ExInt: syntax.RankPrimary, api.ExName: syntax.RankPrimary, api.ExCall: syntax.RankPrimary,
 		},
 	}
-	for rank, kinds := range binaryOperators() {
+	for rank, kinds := range syntax.BinaryOperators() {
 		for sign, kind := range kinds {
 			p.signs[kind], p.ranks[kind] = sign, rank
 		}
@@ -39,12 +40,12 @@ func (p *printer) exp(x api.Exp) string {
 	case api.ExCall:
 		return x.Name + "(" + p.exps(x.Args) + ")"
 	case api.ExIf:
-		return p.part(x.Args[0], rankIf+1) + " ? " + p.exp(x.Args[1]) + " : " + p.exp(x.Args[2])
+		return p.part(x.Args[0], syntax.RankIf+1) + " ? " + p.exp(x.Args[1]) + " : " + p.exp(x.Args[2])
 	case api.ExNeg, api.ExNot:
 		return p.signs[x.Kind] + p.signed(x.Kind, x.Args[0])
 	}
 	left, right := p.ranks[x.Kind], p.ranks[x.Kind]+1
-	if left == rankCompare { // a comparison is no part of another one
+	if left == syntax.RankCompare { // a comparison is no part of another one
 		left = right
 	}
 	return p.part(x.Args[0], left) + " " + p.signs[x.Kind] + " " + p.part(x.Args[1], right)
@@ -70,9 +71,9 @@ func (p *printer) part(x api.Exp, rank int) string {
 // behind a - would be read as a negative one.
 func (p *printer) signed(kind int, x api.Exp) string {
 	if kind == api.ExNeg && x.Kind == api.ExInt && x.Int >= 0 {
-		return p.part(x, rankPrimary+1)
+		return p.part(x, syntax.RankPrimary+1)
 	}
-	return p.part(x, rankUnary)
+	return p.part(x, syntax.RankUnary)
 }
 
 func (p *printer) line(depth int, parts ...string) {

@@ -1,6 +1,10 @@
-package code
+package syntax
 
-import "strings"
+import (
+	"strings"
+
+	"foliot/api"
+)
 
 // token is a part of a text. At the end of the text, and at a byte that begins
 // no token, it is empty.
@@ -64,6 +68,11 @@ func span(text string, isOne func(c byte) bool) int {
 func isLetter(c byte) bool { return c >= 'a' && c <= 'z' || c >= 'A' && c <= 'Z' }
 
 func isDigit(c byte) bool { return c >= '0' && c <= '9' }
+
+// IsName tells whether a text is a name.
+func IsName(s string) bool {
+	return s != "" && len(s) <= api.MaxIdent && wordLength(s) == len(s) && !isReserved(s)
+}
 
 func isReserved(word string) bool {
 	switch word {
